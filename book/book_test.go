@@ -467,6 +467,16 @@ func TestGoods(t *testing.T) {
 	if got := b.Goods(); !slices.Equal(got, want) {
 		t.Error(got)
 	}
+	for _, g := range want {
+		if got, is := b.GoodsOf(g.Code); got != g || !is {
+			t.Error(got, is, g)
+		}
+	}
+	for _, code := range []string{"", "mal", "malt ", "MALT", "zz", "\xff"} {
+		if g, is := b.GoodsOf(code); g != (api.Goods{}) || is {
+			t.Errorf("%q: %v", code, g)
+		}
+	}
 }
 
 // What a map's order could change is told in one order, however often it is asked for.
@@ -607,6 +617,9 @@ func TestNobodysBooks(t *testing.T) {
 		}
 		if l, is := b.Lot("l1"); is || l != (api.Lot{}) {
 			t.Error(l)
+		}
+		if g, is := b.GoodsOf("rye"); is || g != (api.Goods{}) {
+			t.Error(g)
 		}
 		if err := b.Stock().Put(api.Place{Zone: "a", Row: 1, Bay: 1}, "l1", 1); err != nil {
 			t.Error(err)
